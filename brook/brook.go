@@ -1,0 +1,89 @@
+// Package brook: numbers that come digit by digit: see DOC.md.
+package brook
+
+import "brook/api"
+
+// Graph is nodes, numbers made of others.
+type Graph struct {
+	nodes  []makeup // the node of handle h stands at h - 1
+	closed bool
+}
+
+// New makes a graph without nodes.
+func New() *Graph { return &Graph{} }
+
+// Leaf makes a node that is p / q (P3).
+func (g *Graph) Leaf(p int64, q int64) (int, api.Errno) {
+	if g.closed {
+		return 0, api.ErrClosed
+	}
+	r, ok := lowestTerms(p, q)
+	if !ok {
+		return 0, api.ErrRange
+	}
+	return g.add(madeOf(api.Leaf, 0, 0, r))
+}
+
+// Node makes a node of others (P3).
+func (g *Graph) Node(op int, a int, b int) (int, api.Errno) {
+	one, two := takesOne(op), takesTwo(op)
+	switch {
+	case g.closed:
+		return 0, api.ErrClosed
+	case !g.has(a), two && !g.has(b):
+		return 0, api.ErrHandle
+	case !one && !two:
+		return 0, api.ErrRange
+	}
+	if one {
+		b = 0 // b is nothing here, so it must not tell two nodes apart
+	}
+	return g.add(madeOf(op, a, b, ratio{}))
+}
+
+// Scale makes a node that is a times p / q (P3).
+func (g *Graph) Scale(a int, p int64, q int64) (int, api.Errno) {
+	if g.closed {
+		return 0, api.ErrClosed
+	}
+	if !g.has(a) {
+		return 0, api.ErrHandle
+	}
+	r, ok := lowestTerms(p, q)
+	if !ok {
+		return 0, api.ErrRange
+	}
+	return g.add(madeOf(api.Scale, a, 0, r))
+}
+
+// Ask tells a node's first digits (P5).
+func (g *Graph) Ask(h int, n int) ([]int, api.Errno) { return nil, api.OK }
+
+// Digits goes through a node's digits (P7).
+func (g *Graph) Digits(h int) func(yield func(int) bool) { return func(yield func(int) bool) {} }
+
+// Made tells how many digits a node has made (P6).
+func (g *Graph) Made(h int) (int, api.Errno) { return 0, api.OK }
+
+// Len tells how many nodes there are (P4).
+func (g *Graph) Len() int { return len(g.nodes) }
+
+// Close closes the graph (P8).
+func (g *Graph) Close() { g.closed = true }
+
+func (g *Graph) has(h int) bool { return 1 <= h && h <= len(g.nodes) }
+
+// add looks for the node ahead of looking for room: one that is there already
+// needs none, so a full graph still answers it.
+func (g *Graph) add(m makeup) (int, api.Errno) {
+	for i, n := range g.nodes {
+		if n == m {
+			return i + 1, api.OK
+		}
+	}
+	if len(g.nodes) >= api.MaxNodes {
+		return 0, api.ErrFull
+	}
+	g.nodes = append(g.nodes, m)
+	return len(g.nodes), api.OK
+}
