@@ -5,7 +5,7 @@ import "brook/api"
 
 // Graph is nodes, numbers made of others.
 type Graph struct {
-	nodes  []makeup // the node of handle h stands at h - 1
+	nodes  []*node // the node of handle h stands at h - 1
 	closed bool
 }
 
@@ -57,13 +57,35 @@ func (g *Graph) Scale(a int, p int64, q int64) (int, api.Errno) {
 }
 
 // Ask tells a node's first digits (P5).
-func (g *Graph) Ask(h int, n int) ([]int, api.Errno) { return nil, api.OK }
+func (g *Graph) Ask(h int, n int) ([]int, api.Errno) {
+	switch {
+	case g.closed:
+		return nil, api.ErrClosed
+	case !g.has(h):
+		return nil, api.ErrHandle
+	case n < 0 || n > api.MaxDigits:
+		return nil, api.ErrMany
+	}
+	out := make([]int, 0, n)
+	for d := range g.first(h, n) {
+		out = append(out, d)
+	}
+	return out, api.OK
+}
 
 // Digits goes through a node's digits (P7).
 func (g *Graph) Digits(h int) func(yield func(int) bool) { return func(yield func(int) bool) {} }
 
 // Made tells how many digits a node has made (P6).
-func (g *Graph) Made(h int) (int, api.Errno) { return 0, api.OK }
+func (g *Graph) Made(h int) (int, api.Errno) {
+	switch {
+	case g.closed:
+		return 0, api.ErrClosed
+	case !g.has(h):
+		return 0, api.ErrHandle
+	}
+	return len(g.nodes[h-1].digits), api.OK
+}
 
 // Len tells how many nodes there are (P4).
 func (g *Graph) Len() int { return len(g.nodes) }
@@ -77,13 +99,43 @@ func (g *Graph) has(h int) bool { return 1 <= h && h <= len(g.nodes) }
 // needs none, so a full graph still answers it.
 func (g *Graph) add(m makeup) (int, api.Errno) {
 	for i, n := range g.nodes {
-		if n == m {
+		if n.of == m {
 			return i + 1, api.OK
 		}
 	}
 	if len(g.nodes) >= api.MaxNodes {
 		return 0, api.ErrFull
 	}
-	g.nodes = append(g.nodes, m)
+	g.nodes = append(g.nodes, &node{of: m})
 	return len(g.nodes), api.OK
+}
+
+// first goes through the node's first n digits. Those that are made already
+// need no crew.
+func (g *Graph) first(h int, n int) func(yield func(int) bool) {
+	return func(yield func(int) bool) {
+		there := g.nodes[h-1].digits
+		there = there[:min(n, len(there))]
+		for _, d := range there {
+			if !yield(d) {
+				return
+			}
+		}
+		if len(there) < n {
+			g.more(h, len(there), n, yield)
+		}
+	}
+}
+
+// more goes through the digits at the places from i up to n, which are made as
+// their turn comes.
+func (g *Graph) more(h int, i int, n int, yield func(int) bool) {
+	c := startCrew(g.nodes, h)
+	defer c.end()
+	told := make(chan int)
+	for ; i < n; i++ {
+		if !yield(c.workers[h].tell(i, told)) {
+			return
+		}
+	}
 }

@@ -56,9 +56,15 @@ func TestNoGoroutineLeft(t *testing.T) {
 		g.Node(api.Avg, 1, 2)
 		g.Node(api.Neg, 99, 0)
 		g.Scale(1, 1, 2)
+		g.Ask(5, 9)
+		g.Ask(4, 0)
+		g.Ask(99, 9)
+		g.Ask(4, -1)
+		g.Made(4)
 		g.Len()
 		g.Close()
 		g.Leaf(1, 2)
+		g.Ask(4, 9)
 	}
 	// The runtime's own may come and go, so only those that stay are counted.
 	for try := 0; runtime.NumGoroutine() > before; try++ {

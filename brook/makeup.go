@@ -1,6 +1,10 @@
 package brook
 
-import "brook/api"
+import (
+	"math/big"
+
+	"brook/api"
+)
 
 // makeup is what a node is made of: its op, a, b, and the three numbers of its
 // ratio, with 0 for what the op has not. Each node has but one makeup, so that
@@ -24,3 +28,21 @@ func takesTwo(op int) bool {
 	}
 	return false
 }
+
+func (m makeup) op() int { return int(m[0]) }
+
+// a and b are 0, which is no handle, where the op has no such part.
+func (m makeup) a() int { return int(m[1]) }
+
+func (m makeup) b() int { return int(m[2]) }
+
+// over and under are p and q, the sign with p.
+func (m makeup) over() *big.Int {
+	p := new(big.Int).SetUint64(m[4])
+	if m[3] == 1 {
+		p.Neg(p)
+	}
+	return p
+}
+
+func (m makeup) under() *big.Int { return new(big.Int).SetUint64(m[5]) }
