@@ -74,7 +74,9 @@ func (g *Graph) Ask(h int, n int) ([]int, api.Errno) {
 }
 
 // Digits goes through a node's digits (P7).
-func (g *Graph) Digits(h int) func(yield func(int) bool) { return func(yield func(int) bool) {} }
+func (g *Graph) Digits(h int) func(yield func(int) bool) {
+	return g.first(h, api.MaxDigits)
+}
 
 // Made tells how many digits a node has made (P6).
 func (g *Graph) Made(h int) (int, api.Errno) {
@@ -110,32 +112,30 @@ func (g *Graph) add(m makeup) (int, api.Errno) {
 	return len(g.nodes), api.OK
 }
 
-// first goes through the node's first n digits. Those that are made already
-// need no crew.
+// first goes through the node's first n digits. It may be kept and gone through
+// later, and yield may make any call: so h and Close are looked at within, and
+// each digit is made no sooner than its turn comes. A nil yield never says true.
 func (g *Graph) first(h int, n int) func(yield func(int) bool) {
 	return func(yield func(int) bool) {
-		there := g.nodes[h-1].digits
-		there = there[:min(n, len(there))]
-		for _, d := range there {
-			if !yield(d) {
+		if yield == nil || !g.has(h) {
+			return
+		}
+		for i := range n {
+			if g.closed || !yield(g.digit(h, i)) {
 				return
 			}
-		}
-		if len(there) < n {
-			g.more(h, len(there), n, yield)
 		}
 	}
 }
 
-// more goes through the digits at the places from i up to n, which are made as
-// their turn comes.
-func (g *Graph) more(h int, i int, n int, yield func(int) bool) {
+// digit is the node's digit at place i, the first one at 0. A crew stands for one
+// digit alone: while yield has the digit no goroutine may be left, for a call made
+// there must find and leave none, and yield may never come back.
+func (g *Graph) digit(h int, i int) int {
+	if made := g.nodes[h-1].digits; i < len(made) {
+		return made[i]
+	}
 	c := startCrew(g.nodes, h)
 	defer c.end()
-	told := make(chan int)
-	for ; i < n; i++ {
-		if !yield(c.workers[h].tell(i, told)) {
-			return
-		}
-	}
+	return c.workers[h].tell(i, make(chan int))
 }

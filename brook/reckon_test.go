@@ -137,6 +137,14 @@ func (r *reckoner) ask(h, n int) ([]int, api.Errno) {
 	return r.flow(h).made[:n], api.OK
 }
 
+// turn is the digit at place i of a going through the node, and whether it has one.
+func (r *reckoner) turn(h, i int) (int, bool) {
+	if r.closed || !r.handle(h) || i >= api.MaxDigits {
+		return 0, false
+	}
+	return r.digit(h, i), true
+}
+
 func (r *reckoner) made(h int) answer {
 	switch {
 	case r.closed:
@@ -194,9 +202,15 @@ func agree(t *testing.T, g *brook.Graph, r *reckoner, h, n int) {
 	if l, e := g.Ask(h, n); e != we || !slices.Equal(l, want) || (e != api.OK && l != nil) {
 		t.Fatalf("P5: Ask(%d, %d) = %v, %d, want %v, %d; nodes %v", h, n, l, e, want, we, r.nodes)
 	}
+	agreeMade(t, g, r, "Ask", h, n)
+}
+
+// agreeMade holds what all nodes have made, behind n digits of the node h, against the reckoner.
+func agreeMade(t *testing.T, g *brook.Graph, r *reckoner, behind string, h, n int) {
+	t.Helper()
 	for k := range len(r.nodes) + 2 {
 		if m, w := got(g.Made(k)), r.made(k); m != w {
-			t.Fatalf("P6: behind Ask(%d, %d), Made(%d) = %v, want %v; nodes %v", h, n, k, m, w, r.nodes)
+			t.Fatalf("P6: behind %s of node %d, %d digits, Made(%d) = %v, want %v; nodes %v", behind, h, n, k, m, w, r.nodes)
 		}
 	}
 }
